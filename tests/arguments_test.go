@@ -1,0 +1,274 @@
+package tests
+
+// Promise 11: every function accepts all arguments without panicking and modifies none of them.
+
+import (
+	"math"
+	"reflect"
+	"slices"
+	"strings"
+	"testing"
+
+	"loop.example/g01235/impl"
+)
+
+// call is a call of a function with arguments that are chosen already.
+type call struct {
+	name string
+	run  func() []any
+}
+
+func results(values ...any) []any { return values }
+
+// sieveCalls returns a call of each function of chapter 1 that takes rules and a last bool, with the rules and numbers given.
+func sieveCalls(list []impl.Rule, other []impl.Rule, n int, most int) []call {
+	return []call{
+		{"IsLeft", func() []any { return results(impl.IsLeft(list, n)) }},
+		{"FirstRule", func() []any { return results(impl.FirstRule(list, n)) }},
+		{"LeftUpTo", func() []any { return results(impl.LeftUpTo(list, most)) }},
+		{"CountLeft", func() []any { return results(impl.CountLeft(list, most)) }},
+		{"CountBetween", func() []any { return results(impl.CountBetween(list, n, most)) }},
+		{"LeftOfRank", func() []any { return results(impl.LeftOfRank(list, n)) }},
+		{"NextLeft", func() []any { return results(impl.NextLeft(list, n)) }},
+		{"CrossedBy", func() []any { return results(impl.CrossedBy(list, n, most)) }},
+		{"NeedlessRules", func() []any { return results(impl.NeedlessRules(list)) }},
+		{"DropNeedless", func() []any { return results(impl.DropNeedless(list)) }},
+		{"PeriodOfRules", func() []any { return results(impl.PeriodOfRules(list)) }},
+		{"LeftInPeriod", func() []any { return results(impl.LeftInPeriod(list)) }},
+		{"MoveRules", func() []any { return results(impl.MoveRules(list, n)) }},
+		{"MirrorRules", func() []any { return results(impl.MirrorRules(list)) }},
+		{"AreSameSieve", func() []any { return results(impl.AreSameSieve(list, other)) }},
+		{"AreSameSieve back", func() []any { return results(impl.AreSameSieve(other, list)) }},
+		{"RulesText", func() []any { return results(impl.RulesText(list)) }},
+	}
+}
+
+// wrongRules returns lists that are no rules.
+func wrongRules() [][]impl.Rule {
+	lists := [][]impl.Rule{
+		manyRules(impl.MaxRules+1, impl.Rule{Every: 2}),
+		manyRules(1000, impl.Rule{Every: 60, Rest: 59}),
+	}
+	wrong := rules(0, 0, 1, 0, 61, 0, 2, 2, 60, 60, 2, -1, -1, 0, -2, -1, math.MinInt, 0, math.MaxInt, 0, 2, math.MinInt, 2, math.MaxInt, math.MinInt, math.MinInt, math.MaxInt, math.MaxInt)
+	for _, r := range wrong {
+		lists = append(lists, []impl.Rule{r}, append(rules(2, 0, 3, 1), r), append([]impl.Rule{r}, rules(2, 0, 3, 1)...))
+	}
+	return lists
+}
+
+// wantNoPanic returns the results of a call, none if it panicked.
+func wantNoPanic(t *testing.T, c call) (values []any) {
+	t.Helper()
+	defer func() {
+		if p := recover(); p != nil {
+			t.Errorf("%s panics: %v", c.name, p)
+		}
+	}()
+	return c.run()
+}
+
+// wantZeros checks that every result is its zero value, the last bool too.
+func wantZeros(t *testing.T, name string, values []any) {
+	t.Helper()
+	for _, v := range values {
+		if !isZero(v) {
+			t.Errorf("%s fails with %v", name, values)
+		}
+	}
+}
+
+func TestWrongRules(t *testing.T) {
+	for _, list := range wrongRules() {
+		if impl.AreRules(list) {
+			t.Error("these are rules:", list)
+		}
+		for _, c := range sieveCalls(list, rules(2, 0), 0, 10) {
+			wantZeros(t, c.name, wantNoPanic(t, c))
+		}
+	}
+}
+
+func TestWrongNumbers(t *testing.T) {
+	list := rules(2, 0, 3, 1)
+	for _, n := range []int{-601, 601, 100000, -100000, math.MinInt, math.MaxInt, math.MinInt + 1} {
+		for _, c := range []call{
+			{"IsLeft", func() []any { return results(impl.IsLeft(list, n)) }},
+			{"FirstRule", func() []any { return results(impl.FirstRule(list, n)) }},
+			{"LeftUpTo", func() []any { return results(impl.LeftUpTo(list, n)) }},
+			{"CountLeft", func() []any { return results(impl.CountLeft(list, n)) }},
+			{"CountBetween low", func() []any { return results(impl.CountBetween(list, n, 5)) }},
+			{"CountBetween high", func() []any { return results(impl.CountBetween(list, 5, n)) }},
+			{"LeftOfRank", func() []any { return results(impl.LeftOfRank(list, n)) }},
+			{"NextLeft", func() []any { return results(impl.NextLeft(list, n)) }},
+			{"CrossedBy k", func() []any { return results(impl.CrossedBy(list, n, 5)) }},
+			{"CrossedBy most", func() []any { return results(impl.CrossedBy(list, 0, n)) }},
+			{"MoveRules", func() []any { return results(impl.MoveRules(list, n)) }},
+		} {
+			wantZeros(t, c.name, wantNoPanic(t, c))
+		}
+	}
+}
+
+// TestAllArguments calls every function with all that is at hand: none panics, and what fails returns zero values.
+func TestAllArguments(t *testing.T) {
+	lists := append(wrongRules(), nil, rules(2, 0), nothingLeft(), oneIn864(), manyRules(impl.MaxRules, impl.Rule{Every: 60, Rest: 59}))
+	lists = append(lists, longPeriods()...)
+	numbers := []int{math.MinInt, math.MinInt + 1, -601, -600, -1, 0, 1, 11, 12, 600, 601, 1 << 32, math.MaxInt - 1, math.MaxInt}
+	for i, list := range lists {
+		for _, n := range numbers {
+			for _, most := range numbers {
+				for _, c := range sieveCalls(list, lists[len(lists)-1-i], n, most) {
+					values := wantNoPanic(t, c)
+					if len(values) > 0 && values[len(values)-1] == false {
+						wantZeros(t, c.name, values)
+					}
+				}
+			}
+		}
+	}
+}
+
+func TestAllRules(t *testing.T) {
+	numbers := []int{math.MinInt, -61, -60, -2, -1, 0, 1, 2, 3, 59, 60, 61, math.MaxInt}
+	for _, every := range numbers {
+		for _, rest := range numbers {
+			want := every >= 2 && every <= 60 && rest >= 0 && rest < every
+			r := impl.Rule{Every: every, Rest: rest}
+			for _, c := range []call{
+				{"IsRule", func() []any { return results(impl.IsRule(r)) }},
+				{"AreRules", func() []any { return results(impl.AreRules([]impl.Rule{r})) }},
+			} {
+				if values := wantNoPanic(t, c); len(values) != 1 || values[0] != want {
+					t.Errorf("%s of %v is %v", c.name, r, values)
+				}
+			}
+		}
+	}
+}
+
+func TestAllTexts(t *testing.T) {
+	for _, s := range []string{"", "\x00", "\xff\xfe", "2:0,\xc3", strings.Repeat("2:0,", 1<<18), strings.Repeat("9", 1<<20), strings.Repeat(":", 1<<20), "2:" + strings.Repeat("0", 100)} {
+		wantZeros(t, "ParseRules", wantNoPanic(t, call{"ParseRules", func() []any { return results(impl.ParseRules(s)) }}))
+	}
+}
+
+// withSpare returns the list as the beginning of a longer one, which is returned too.
+func withSpare(list []impl.Rule, behind impl.Rule) ([]impl.Rule, []impl.Rule) {
+	long := append(slices.Clone(list), manyRules(20, behind)...)
+	return long[:len(list)], long
+}
+
+// spoil overwrites all memory of the slices among the results.
+func spoil(values []any) {
+	for _, value := range values {
+		v := reflect.ValueOf(value)
+		if v.Kind() != reflect.Slice {
+			continue
+		}
+		all := v.Slice(0, v.Cap())
+		for i := range all.Len() {
+			switch e := all.Index(i).Addr().Interface().(type) {
+			case *int:
+				*e = -77
+			case *impl.Rule:
+				*e = impl.Rule{Every: -77, Rest: -77}
+			}
+		}
+	}
+}
+
+// copied returns the results with slices of their own, so that they can be compared later.
+func copied(values []any) []any {
+	copies := slices.Clone(values)
+	for i, value := range values {
+		switch v := value.(type) {
+		case []int:
+			copies[i] = slices.Clone(v)
+		case []impl.Rule:
+			copies[i] = slices.Clone(v)
+		}
+	}
+	return copies
+}
+
+// sharingLists are lists of which some functions change nothing, so that to hand them out again would be easy.
+func sharingLists() [][]impl.Rule {
+	return [][]impl.Rule{{}, rules(2, 0), rules(2, 0, 3, 1), rules(2, 0, 2, 0, 4, 2), nothingLeft(), manyRules(impl.MaxRules, impl.Rule{Every: 2, Rest: 1})}
+}
+
+func TestArgumentsStay(t *testing.T) {
+	for _, behind := range rules(2, 1, 0, -5) {
+		for _, list := range sharingLists() {
+			short, long := withSpare(list, behind)
+			before := slices.Clone(long)
+			for _, c := range sieveCalls(short, short, 0, 50) {
+				values := wantNoPanic(t, c)
+				if !slices.Equal(long, before) {
+					t.Fatal(c.name, "changes its argument", list)
+				}
+				spoil(values)
+				if !slices.Equal(long, before) {
+					t.Fatal(c.name, "shares memory with its argument", list)
+				}
+			}
+			impl.AreRules(short)
+			if !slices.Equal(long, before) {
+				t.Fatal("AreRules changes its argument", list)
+			}
+		}
+	}
+}
+
+// TestResultsStay changes the arguments behind a call, and calls again when the first results are spoiled.
+func TestResultsStay(t *testing.T) {
+	for _, list := range sharingLists() {
+		short, long := withSpare(list, impl.Rule{Every: 2})
+		before := slices.Clone(long)
+		for _, c := range sieveCalls(short, short, 0, 50) {
+			values := wantNoPanic(t, c)
+			first := copied(values)
+			spoil([]any{long})
+			if !sameResults(values, first) {
+				t.Error(c.name, "keeps its argument in its result", list)
+			}
+			copy(long, before)
+			spoil(values)
+			if again := wantNoPanic(t, c); !sameResults(again, first) {
+				t.Error(c.name, "returns something else again", list, first, again)
+			}
+		}
+	}
+}
+
+// TestSpareIsNotRead has other rules behind the length of the list.
+func TestSpareIsNotRead(t *testing.T) {
+	for _, list := range sharingLists() {
+		for _, behind := range rules(2, 0, 2, 1, 3, 0, 0, 0) {
+			short, _ := withSpare(list, behind)
+			exact := sieveCalls(slices.Clip(slices.Clone(list)), nil, 0, 50)
+			for i, c := range sieveCalls(short, nil, 0, 50) {
+				if !sameResults(wantNoPanic(t, c), wantNoPanic(t, exact[i])) {
+					t.Error(c.name, "reads behind the length", list, behind)
+				}
+			}
+			if !impl.AreRules(short) {
+				t.Error("AreRules reads behind the length", list, behind)
+			}
+		}
+	}
+}
+
+func sameResults(a []any, b []any) bool {
+	return slices.EqualFunc(a, b, isSame)
+}
+
+// TestParsedRulesAreNew spoils what was read and reads it again.
+func TestParsedRulesAreNew(t *testing.T) {
+	for _, s := range []string{"-", "2:0", "2:0,3:1,60:59"} {
+		for range 2 {
+			list, ok := impl.ParseRules(s)
+			wantValue(t, "ParseRules of "+s, list, ok, readRules(t, s))
+			spoil(results(list))
+		}
+	}
+}
