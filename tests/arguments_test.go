@@ -153,8 +153,8 @@ func TestAllTexts(t *testing.T) {
 }
 
 // withSpare returns the list as the beginning of a longer one, which is returned too.
-func withSpare(list []impl.Rule, behind impl.Rule) ([]impl.Rule, []impl.Rule) {
-	long := append(slices.Clone(list), manyRules(20, behind)...)
+func withSpare[T any](list []T, behind T) ([]T, []T) {
+	long := append(slices.Clone(list), slices.Repeat([]T{behind}, 20)...)
 	return long[:len(list)], long
 }
 
@@ -196,64 +196,67 @@ func sharingLists() [][]impl.Rule {
 	return [][]impl.Rule{{}, rules(2, 0), rules(2, 0, 3, 1), rules(2, 0, 2, 0, 4, 2), nothingLeft(), manyRules(impl.MaxRules, impl.Rule{Every: 2, Rest: 1})}
 }
 
-func TestArgumentsStay(t *testing.T) {
-	for _, behind := range rules(2, 1, 0, -5) {
-		for _, list := range sharingLists() {
-			short, long := withSpare(list, behind)
-			before := slices.Clone(long)
-			for _, c := range sieveCalls(short, short, 0, 50) {
-				values := wantNoPanic(t, c)
-				if !slices.Equal(long, before) {
-					t.Fatal(c.name, "changes its argument", list)
-				}
-				spoil(values)
-				if !slices.Equal(long, before) {
-					t.Fatal(c.name, "shares memory with its argument", list)
-				}
-			}
-			impl.AreRules(short)
-			if !slices.Equal(long, before) {
-				t.Fatal("AreRules changes its argument", list)
-			}
+// allSieveCalls returns a call of each function of chapter 1 that takes a list of rules.
+func allSieveCalls(list []impl.Rule) []call {
+	are := call{"AreRules", func() []any { return results(impl.AreRules(list)) }}
+	return append(sieveCalls(list, list, 0, 50), are)
+}
+
+// wantArgumentStays checks that no call changes the list or what is behind it, or shares memory with it.
+func wantArgumentStays[T comparable](t *testing.T, list []T, behind T, calls func(list []T) []call) {
+	t.Helper()
+	short, long := withSpare(list, behind)
+	before := slices.Clone(long)
+	for _, c := range calls(short) {
+		values := wantNoPanic(t, c)
+		if !slices.Equal(long, before) {
+			t.Fatal(c.name, "changes its argument", list)
+		}
+		spoil(values)
+		if !slices.Equal(long, before) {
+			t.Fatal(c.name, "shares memory with its argument", list)
 		}
 	}
 }
 
-// TestResultsStay changes the arguments behind a call, and calls again when the first results are spoiled.
-func TestResultsStay(t *testing.T) {
-	for _, list := range sharingLists() {
-		short, long := withSpare(list, impl.Rule{Every: 2})
-		before := slices.Clone(long)
-		for _, c := range sieveCalls(short, short, 0, 50) {
-			values := wantNoPanic(t, c)
-			first := copied(values)
-			spoil([]any{long})
-			if !sameResults(values, first) {
-				t.Error(c.name, "keeps its argument in its result", list)
-			}
-			copy(long, before)
-			spoil(values)
-			if again := wantNoPanic(t, c); !sameResults(again, first) {
-				t.Error(c.name, "returns something else again", list, first, again)
-			}
+// wantResultsStay changes the arguments behind a call, and calls again when the first results are spoiled.
+func wantResultsStay[T comparable](t *testing.T, list []T, behind T, calls func(list []T) []call) {
+	t.Helper()
+	short, long := withSpare(list, behind)
+	before := slices.Clone(long)
+	for _, c := range calls(short) {
+		values := wantNoPanic(t, c)
+		first := copied(values)
+		spoil([]any{long})
+		if !sameResults(values, first) {
+			t.Error(c.name, "keeps its argument in its result", list)
+		}
+		copy(long, before)
+		spoil(values)
+		if again := wantNoPanic(t, c); !sameResults(again, first) {
+			t.Error(c.name, "returns something else again", list, first, again)
 		}
 	}
 }
 
-// TestSpareIsNotRead has other rules behind the length of the list.
-func TestSpareIsNotRead(t *testing.T) {
+// wantSpareUnread checks that it does not matter what is behind the length of the list.
+func wantSpareUnread[T comparable](t *testing.T, list []T, behind T, calls func(list []T) []call) {
+	t.Helper()
+	short, _ := withSpare(list, behind)
+	exact := calls(slices.Clip(slices.Clone(list)))
+	for i, c := range calls(short) {
+		if !sameResults(wantNoPanic(t, c), wantNoPanic(t, exact[i])) {
+			t.Error(c.name, "reads behind the length", list, behind)
+		}
+	}
+}
+
+func TestRulesStay(t *testing.T) {
 	for _, list := range sharingLists() {
-		for _, behind := range rules(2, 0, 2, 1, 3, 0, 0, 0) {
-			short, _ := withSpare(list, behind)
-			exact := sieveCalls(slices.Clip(slices.Clone(list)), nil, 0, 50)
-			for i, c := range sieveCalls(short, nil, 0, 50) {
-				if !sameResults(wantNoPanic(t, c), wantNoPanic(t, exact[i])) {
-					t.Error(c.name, "reads behind the length", list, behind)
-				}
-			}
-			if !impl.AreRules(short) {
-				t.Error("AreRules reads behind the length", list, behind)
-			}
+		wantResultsStay(t, list, impl.Rule{Every: 2}, allSieveCalls)
+		for _, behind := range rules(2, 0, 2, 1, 3, 0, 0, 0, 0, -5) {
+			wantArgumentStays(t, list, behind, allSieveCalls)
+			wantSpareUnread(t, list, behind, allSieveCalls)
 		}
 	}
 }
