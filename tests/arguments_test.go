@@ -77,6 +77,15 @@ func wantZeros(t *testing.T, name string, values []any) {
 	}
 }
 
+// wantTotal checks of a call that it does not panic, and fails with zero values if it fails.
+func wantTotal(t *testing.T, c call) {
+	t.Helper()
+	values := wantNoPanic(t, c)
+	if len(values) > 0 && values[len(values)-1] == false {
+		wantZeros(t, c.name, values)
+	}
+}
+
 func TestWrongRules(t *testing.T) {
 	for _, list := range wrongRules() {
 		if impl.AreRules(list) {
@@ -118,10 +127,7 @@ func TestAllArguments(t *testing.T) {
 		for _, n := range numbers {
 			for _, most := range numbers {
 				for _, c := range sieveCalls(list, lists[len(lists)-1-i], n, most) {
-					values := wantNoPanic(t, c)
-					if len(values) > 0 && values[len(values)-1] == false {
-						wantZeros(t, c.name, values)
-					}
+					wantTotal(t, c)
 				}
 			}
 		}
@@ -172,6 +178,9 @@ func spoil(values []any) {
 				*e = -77
 			case *impl.Rule:
 				*e = impl.Rule{Every: -77, Rest: -77}
+			case *[]int:
+				spoil([]any{*e})
+				*e = []int{-77}
 			}
 		}
 	}
@@ -186,7 +195,18 @@ func copied(values []any) []any {
 			copies[i] = slices.Clone(v)
 		case []impl.Rule:
 			copies[i] = slices.Clone(v)
+		case [][]int:
+			copies[i] = copiedLists(v)
 		}
+	}
+	return copies
+}
+
+// copiedLists returns a list of lists with memory of its own.
+func copiedLists(lists [][]int) [][]int {
+	copies := slices.Clone(lists)
+	for i, list := range lists {
+		copies[i] = slices.Clone(list)
 	}
 	return copies
 }
@@ -236,6 +256,17 @@ func wantResultsStay[T comparable](t *testing.T, list []T, behind T, calls func(
 		if again := wantNoPanic(t, c); !sameResults(again, first) {
 			t.Error(c.name, "returns something else again", list, first, again)
 		}
+	}
+}
+
+// wantNewResults spoils what a call returned and calls again.
+func wantNewResults(t *testing.T, c call) {
+	t.Helper()
+	values := wantNoPanic(t, c)
+	first := copied(values)
+	spoil(values)
+	if again := wantNoPanic(t, c); !sameResults(again, first) {
+		t.Error(c.name, "returns something else again", first, again)
 	}
 }
 

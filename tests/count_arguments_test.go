@@ -93,15 +93,6 @@ func TestWrongNumbersOfCounting(t *testing.T) {
 	}
 }
 
-// wantCounted checks of a call of chapter 2 that it panics for no arguments, and fails with zero values.
-func wantCounted(t *testing.T, c call) {
-	t.Helper()
-	values := wantNoPanic(t, c)
-	if len(values) > 0 && values[len(values)-1] == false {
-		wantZeros(t, c.name, values)
-	}
-}
-
 // TestAllArgumentsOfCounting calls every function with all that is at hand.
 func TestAllArgumentsOfCounting(t *testing.T) {
 	numbers := []int{math.MinInt, math.MinInt + 1, -400, -1, 0, 1, 2, 20, 21, 30, 31, 100, 101, 400, 401, 1000, 1001, 10000, 10001, 1 << 32, math.MaxInt - 1, math.MaxInt}
@@ -109,15 +100,15 @@ func TestAllArgumentsOfCounting(t *testing.T) {
 	for _, n := range numbers {
 		for _, steps := range lists {
 			for _, c := range stepCalls(steps, n) {
-				wantCounted(t, c)
+				wantTotal(t, c)
 			}
 		}
 		for _, c := range numberCalls(n) {
-			wantCounted(t, c)
+			wantTotal(t, c)
 		}
 		for _, other := range numbers {
 			for _, c := range pairCalls(n, other) {
-				wantCounted(t, c)
+				wantTotal(t, c)
 			}
 		}
 	}
@@ -133,16 +124,10 @@ func TestStepsStay(t *testing.T) {
 	}
 }
 
-// TestCountedNumbersAreNew spoils what was returned and calls again.
 func TestCountedNumbersAreNew(t *testing.T) {
 	for _, n := range []int{1, 2, 5, 20, 30, 100, 400} {
 		for _, c := range append(numberCalls(n), pairCalls(min(n, 20), n)...) {
-			values := wantNoPanic(t, c)
-			first := copied(values)
-			spoil(values)
-			if again := wantNoPanic(t, c); !sameResults(again, first) {
-				t.Error(c.name, "returns something else again", n, first, again)
-			}
+			wantNewResults(t, c)
 		}
 	}
 }
@@ -155,7 +140,7 @@ func TestStepsAreDone(t *testing.T) {
 		impl.LeftByCounting(steps, -1)
 	}
 	for _, c := range append(numberCalls(impl.MaxAnew), pairCalls(20, impl.MaxAnew)...) {
-		wantCounted(t, c)
+		wantTotal(t, c)
 	}
 	for range 100 {
 		if runtime.NumGoroutine() <= before {
