@@ -259,12 +259,15 @@ func wantResultsStay[T comparable](t *testing.T, list []T, behind T, calls func(
 	}
 }
 
-// wantNewResults spoils what a call returned and calls again.
+// wantNewResults spoils what a call returned, looks at what another such call returned before, and calls again.
 func wantNewResults(t *testing.T, c call) {
 	t.Helper()
-	values := wantNoPanic(t, c)
+	values, others := wantNoPanic(t, c), wantNoPanic(t, c)
 	first := copied(values)
 	spoil(values)
+	if !sameResults(others, first) {
+		t.Error(c.name, "returns the same memory twice", first, others)
+	}
 	if again := wantNoPanic(t, c); !sameResults(again, first) {
 		t.Error(c.name, "returns something else again", first, again)
 	}
