@@ -285,6 +285,22 @@ func wantSpareUnread[T comparable](t *testing.T, list []T, behind T, calls func(
 	}
 }
 
+// wantListsApart writes to all memory of each list of a result: none of it is another one's.
+func wantListsApart(t *testing.T, name string, lists [][]int) {
+	t.Helper()
+	for i, list := range lists {
+		all := list[:cap(list)]
+		for k := range all {
+			all[k] = -1 - i
+		}
+	}
+	for i, list := range lists {
+		if slices.ContainsFunc(list[:cap(list)], func(number int) bool { return number != -1-i }) {
+			t.Error("two lists of", name, "share memory", lists)
+		}
+	}
+}
+
 func TestRulesStay(t *testing.T) {
 	for _, list := range sharingLists() {
 		wantResultsStay(t, list, impl.Rule{Every: 2}, allSieveCalls)

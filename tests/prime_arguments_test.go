@@ -118,24 +118,13 @@ func TestPrimesAreNew(t *testing.T) {
 	}
 }
 
-// TestFactorsAreApart writes to all memory of each list of a result: none of it is another one's.
 func TestFactorsAreApart(t *testing.T) {
 	for _, n := range []int{1, 2, 6, 360, 30030, 735134400, 223092870, impl.MaxFactored} {
 		factors, ok := impl.FactorsOf(n)
 		if !ok {
 			t.Fatal("no factors", n)
 		}
-		for i, f := range factors {
-			all := f[:cap(f)]
-			for k := range all {
-				all[k] = -1 - i
-			}
-		}
-		for i, f := range factors {
-			if slices.ContainsFunc(f[:cap(f)], func(number int) bool { return number != -1-i }) {
-				t.Error("two lists of FactorsOf share memory", n)
-			}
-		}
+		wantListsApart(t, "FactorsOf", factors)
 	}
 }
 
