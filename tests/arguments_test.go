@@ -86,6 +86,38 @@ func wantTotal(t *testing.T, c call) {
 	}
 }
 
+// wantSuccess checks that the last result of a call is true.
+func wantSuccess(t *testing.T, c call) {
+	t.Helper()
+	values := wantNoPanic(t, c)
+	if len(values) == 0 || values[len(values)-1] != true {
+		t.Error(c.name, "fails", values)
+	}
+}
+
+// wantEdges calls each function that has edges, its least and its greatest valid number, with these and with the numbers next to them.
+func wantEdges(t *testing.T, calls func(n int) []call, edges map[string][2]int) {
+	t.Helper()
+	found := 0
+	for i, c := range calls(0) {
+		edge, ok := edges[c.name]
+		if !ok {
+			continue
+		}
+		found++
+		for _, n := range edge {
+			wantSuccess(t, call{of(c.name, n), calls(n)[i].run})
+		}
+		// One more than the greatest int is the least one.
+		for _, n := range []int{edge[0] - 1, edge[1] + 1} {
+			wantZeros(t, of(c.name, n), wantNoPanic(t, calls(n)[i]))
+		}
+	}
+	if found != len(edges) {
+		t.Error("the test has edges of a function that is not called")
+	}
+}
+
 func TestWrongRules(t *testing.T) {
 	for _, list := range wrongRules() {
 		if impl.AreRules(list) {

@@ -141,3 +141,6 @@ func wordsOf(numbers []int) string {
 	}
 	return strings.Join(words, " ")
 }
+
+// of returns the name of a call with one number.
+func of(name string, n int) string { return name + " of " + strconv.Itoa(n) }

@@ -71,18 +71,7 @@ func TestEdgesOfPrimes(t *testing.T) {
 		"IsPrime": {0, impl.MaxFactored}, "CountPrimes": {0, impl.MaxCounted}, "PrimeOfRank": {0, 1228}, "NextPrime": {0, 1000000}, "LeastFactor": {2, impl.MaxFactored}, "FactorsOf": {1, impl.MaxFactored}, "RadicalOf": {1, impl.MaxFactored},
 		"TwinsUpTo": {0, impl.MaxNumber}, "FirstTwoPrimes": {4, impl.MaxCounted}, "CountTwoPrimes": {4, impl.MaxCounted}, "RulesOfPrimes": {0, impl.MaxFirst}, "CrossersUpTo": {0, impl.MaxNumber},
 	}
-	for i, within := range primeCalls(0) {
-		low, high := edges[within.name][0], edges[within.name][1]
-		for _, n := range []int{low, high} {
-			values := wantNoPanic(t, primeCalls(n)[i])
-			if len(values) == 0 || values[len(values)-1] != true {
-				t.Error(within.name, "fails for", n)
-			}
-		}
-		for _, n := range []int{low - 1, high + 1} {
-			wantZeros(t, within.name, wantNoPanic(t, primeCalls(n)[i]))
-		}
-	}
+	wantEdges(t, primeCalls, edges)
 }
 
 // TestAllArgumentsOfPrimes calls every function with all that is at hand.

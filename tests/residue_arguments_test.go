@@ -80,15 +80,6 @@ func wrongForAll() []int {
 	return []int{math.MinInt, math.MinInt + 1, -1 << 32, 3 - 1<<32, -601, -61, -13, -2, -1, 1000000001, 1 << 31, 1 << 32, 1<<32 + 2, 1<<32 + 5, 1 << 62, math.MaxInt - 1, math.MaxInt}
 }
 
-// wantSuccess checks that the last result of a call is true.
-func wantSuccess(t *testing.T, c call) {
-	t.Helper()
-	values := wantNoPanic(t, c)
-	if len(values) == 0 || values[len(values)-1] != true {
-		t.Error(c.name, "fails", values)
-	}
-}
-
 // TestResiduesSucceed has arguments with each of which, if another one is wrong, the calls of the tests below fail.
 func TestResiduesSucceed(t *testing.T) {
 	for _, prime := range []int{2, 3, 5} {

@@ -85,22 +85,7 @@ func TestWrongNumbersOfWheels(t *testing.T) {
 // TestEdgesOfWheels calls each function with the numbers just within and just behind its limits.
 func TestEdgesOfWheels(t *testing.T) {
 	edges := map[string][2]int{"IsSpoke": {0, impl.MaxFar}, "SpokeOfRank": {0, impl.MaxFar}, "RankOfSpoke": {1, impl.MaxFar}, "SpokeNear": {0, impl.MaxFar}, "CountStep": {1, math.MaxInt}, "RollWheel": {2, 59}, "TimesTogether": {1, impl.MaxWheel}}
-	for i, c := range wheelCalls(nil, 0, nil) {
-		edge, ok := edges[c.name]
-		if !ok {
-			continue
-		}
-		for _, n := range []int{edge[0], edge[1]} {
-			values := wantNoPanic(t, wheelCalls(nil, n, nil)[i])
-			if len(values) == 0 || values[len(values)-1] != true {
-				t.Error(c.name, "fails for", n)
-			}
-		}
-		// One more than the greatest int is the least one.
-		for _, n := range []int{edge[0] - 1, edge[1] + 1} {
-			wantZeros(t, c.name, wantNoPanic(t, wheelCalls(nil, n, nil)[i]))
-		}
-	}
+	wantEdges(t, func(n int) []call { return wheelCalls(nil, n, nil) }, edges)
 }
 
 func TestWrongRuns(t *testing.T) {
