@@ -118,6 +118,30 @@ func wantEdges(t *testing.T, calls func(n int) []call, edges map[string][2]int) 
 	}
 }
 
+// withEdges returns the edges, with low and high as those of each function that has none.
+func withEdges(calls []call, edges map[string][2]int, low int, high int) map[string][2]int {
+	for _, c := range calls {
+		if _, ok := edges[c.name]; !ok {
+			edges[c.name] = [2]int{low, high}
+		}
+	}
+	return edges
+}
+
+// wantLimits checks that a call with one of the numbers succeeds exactly if that is within the edges of the function.
+func wantLimits(t *testing.T, calls func(n int) []call, edges map[string][2]int, numbers []int) {
+	t.Helper()
+	for _, n := range numbers {
+		for _, c := range calls(n) {
+			if edge := edges[c.name]; n >= edge[0] && n <= edge[1] {
+				wantSuccess(t, call{of(c.name, n), c.run})
+			} else {
+				wantZeros(t, of(c.name, n), wantNoPanic(t, c))
+			}
+		}
+	}
+}
+
 func TestWrongRules(t *testing.T) {
 	for _, list := range wrongRules() {
 		if impl.AreRules(list) {

@@ -35,15 +35,9 @@ func squareCalls(n int) []call {
 
 // squareEdges are the least and the greatest valid number of each function.
 func squareEdges() map[string][2]int {
-	edges := map[string][2]int{
+	return withEdges(squareCalls(0), map[string][2]int{
 		"SumOfSigns": {1, impl.MaxNumber}, "SquareFreeUpTo": {0, impl.MaxNumber}, "SquareFreeOfRank": {0, 300}, "LongestSquareful": {0, impl.MaxNumber}, "SumsOfTwoUpTo": {0, impl.MaxNumber}, "FourSquares": {1, 5000},
-	}
-	for _, c := range squareCalls(0) {
-		if _, ok := edges[c.name]; !ok {
-			edges[c.name] = [2]int{1, impl.MaxAsked}
-		}
-	}
-	return edges
+	}, 1, impl.MaxAsked)
 }
 
 // numbersOfSquares are the numbers at the limits of all functions, and others far within and far behind them.
@@ -66,16 +60,7 @@ func TestEdgesOfSquares(t *testing.T) {
 
 // TestLimitsOfSquares has that a call succeeds exactly within the limits.
 func TestLimitsOfSquares(t *testing.T) {
-	edges := squareEdges()
-	for _, n := range numbersOfSquares() {
-		for _, c := range squareCalls(n) {
-			if edge := edges[c.name]; n >= edge[0] && n <= edge[1] {
-				wantSuccess(t, call{of(c.name, n), c.run})
-			} else {
-				wantZeros(t, of(c.name, n), wantNoPanic(t, c))
-			}
-		}
-	}
+	wantLimits(t, squareCalls, squareEdges(), numbersOfSquares())
 }
 
 // TestSquaresAreNew spoils what was returned, with all room behind it, and calls again.
