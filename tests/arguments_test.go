@@ -5,9 +5,11 @@ package tests
 import (
 	"math"
 	"reflect"
+	"runtime"
 	"slices"
 	"strings"
 	"testing"
+	"time"
 
 	"loop.example/g01235/impl"
 )
@@ -355,6 +357,18 @@ func wantListsApart(t *testing.T, name string, lists [][]int) {
 			t.Error("two lists of", name, "share memory", lists)
 		}
 	}
+}
+
+// wantNoMoreGoroutines waits for some time until there are no more goroutines than before.
+func wantNoMoreGoroutines(t *testing.T, before int) {
+	t.Helper()
+	for range 100 {
+		if runtime.NumGoroutine() <= before {
+			return
+		}
+		time.Sleep(10 * time.Millisecond)
+	}
+	t.Error("goroutines are left:", runtime.NumGoroutine()-before)
 }
 
 func TestRulesStay(t *testing.T) {

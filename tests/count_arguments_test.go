@@ -6,7 +6,6 @@ import (
 	"math"
 	"runtime"
 	"testing"
-	"time"
 
 	"loop.example/g01235/impl"
 )
@@ -142,11 +141,5 @@ func TestStepsAreDone(t *testing.T) {
 	for _, c := range append(numberCalls(impl.MaxAnew), pairCalls(20, impl.MaxAnew)...) {
 		wantTotal(t, c)
 	}
-	for range 100 {
-		if runtime.NumGoroutine() <= before {
-			return
-		}
-		time.Sleep(10 * time.Millisecond)
-	}
-	t.Error("goroutines are left:", runtime.NumGoroutine()-before)
+	wantNoMoreGoroutines(t, before)
 }
