@@ -239,6 +239,9 @@ func spoil(values []any) {
 			case *[]int:
 				spoil([]any{*e})
 				*e = []int{-77}
+			case *[]impl.Rule:
+				spoil([]any{*e})
+				*e = rules(-77, -77)
 			}
 		}
 	}
@@ -255,13 +258,15 @@ func copied(values []any) []any {
 			copies[i] = slices.Clone(v)
 		case [][]int:
 			copies[i] = copiedLists(v)
+		case [][]impl.Rule:
+			copies[i] = copiedLists(v)
 		}
 	}
 	return copies
 }
 
 // copiedLists returns a list of lists with memory of its own.
-func copiedLists(lists [][]int) [][]int {
+func copiedLists[T any](lists [][]T) [][]T {
 	copies := slices.Clone(lists)
 	for i, list := range lists {
 		copies[i] = slices.Clone(list)
@@ -346,14 +351,26 @@ func wantSpareUnread[T comparable](t *testing.T, list []T, behind T, calls func(
 // wantListsApart writes to all memory of each list of a result: none of it is another one's.
 func wantListsApart(t *testing.T, name string, lists [][]int) {
 	t.Helper()
+	wantMarksApart(t, name, lists, func(i int) int { return -1 - i })
+}
+
+// wantRuleListsApart does so with lists of rules.
+func wantRuleListsApart(t *testing.T, name string, lists [][]impl.Rule) {
+	t.Helper()
+	wantMarksApart(t, name, lists, func(i int) impl.Rule { return impl.Rule{Every: -1 - i} })
+}
+
+// wantMarksApart writes the mark of each list to all of its memory.
+func wantMarksApart[T comparable](t *testing.T, name string, lists [][]T, mark func(i int) T) {
+	t.Helper()
 	for i, list := range lists {
 		all := list[:cap(list)]
 		for k := range all {
-			all[k] = -1 - i
+			all[k] = mark(i)
 		}
 	}
 	for i, list := range lists {
-		if slices.ContainsFunc(list[:cap(list)], func(number int) bool { return number != -1-i }) {
+		if slices.ContainsFunc(list[:cap(list)], func(element T) bool { return element != mark(i) }) {
 			t.Error("two lists of", name, "share memory", lists)
 		}
 	}
