@@ -222,9 +222,12 @@ func withSpare[T any](list []T, behind T) ([]T, []T) {
 	return long[:len(list)], long
 }
 
-// spoil overwrites all memory of the slices among the results.
+// spoil overwrites all memory of the slices among the results, also of those in desks.
 func spoil(values []any) {
 	for _, value := range values {
+		if d, ok := value.(impl.Desk); ok {
+			value = d.Rules
+		}
 		v := reflect.ValueOf(value)
 		if v.Kind() != reflect.Slice {
 			continue
@@ -234,6 +237,8 @@ func spoil(values []any) {
 			switch e := all.Index(i).Addr().Interface().(type) {
 			case *int:
 				*e = -77
+			case *string:
+				*e = "spoiled"
 			case *impl.Rule:
 				*e = impl.Rule{Every: -77, Rest: -77}
 			case *[]int:
@@ -254,8 +259,12 @@ func copied(values []any) []any {
 		switch v := value.(type) {
 		case []int:
 			copies[i] = slices.Clone(v)
+		case []string:
+			copies[i] = slices.Clone(v)
 		case []impl.Rule:
 			copies[i] = slices.Clone(v)
+		case impl.Desk:
+			copies[i] = impl.Desk{Rules: slices.Clone(v.Rules), Most: v.Most}
 		case [][]int:
 			copies[i] = copiedLists(v)
 		case [][]impl.Rule:

@@ -45,16 +45,21 @@ func wantFail(t *testing.T, what string, got any, ok bool) {
 	}
 }
 
-// isSame compares values; a nil slice and an empty one are the same.
+// isSame compares values; a nil slice and an empty one are the same, also in a desk.
 func isSame(a any, b any) bool {
 	if isEmptySlice(a) && isEmptySlice(b) {
 		return true
+	}
+	d, isDesk := a.(impl.Desk)
+	other, isOther := b.(impl.Desk)
+	if isDesk && isOther {
+		return d.Most == other.Most && slices.Equal(d.Rules, other.Rules)
 	}
 	return reflect.DeepEqual(a, b)
 }
 
 func isZero(a any) bool {
-	return isEmptySlice(a) || reflect.ValueOf(a).IsZero()
+	return isEmptySlice(a) || isSame(a, impl.Desk{}) || reflect.ValueOf(a).IsZero()
 }
 
 func isEmptySlice(a any) bool {
